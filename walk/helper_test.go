@@ -94,34 +94,3 @@ func takes(t *testing.T, body string, steps int) {
 		t.Errorf("%q: %+v; want %d steps", body, got, steps)
 	}
 }
-
-// Copies of trees that share nothing with them.
-
-func cloned[T any](l []T, of func(T) T) []T {
-	var out []T
-	for _, x := range l {
-		out = append(out, of(x))
-	}
-	return out
-}
-
-func cloneExpr(e api.Expr) api.Expr {
-	e.Kids = cloned(e.Kids, cloneExpr)
-	return e
-}
-
-func cloneStmt(s api.Stmt) api.Stmt {
-	s.Exprs = cloned(s.Exprs, cloneExpr)
-	s.Kids = cloned(s.Kids, cloneStmt)
-	return s
-}
-
-func cloneFunc(f api.Func) api.Func {
-	f.Params = slices.Clone(f.Params)
-	f.Body = cloned(f.Body, cloneStmt)
-	return f
-}
-
-func cloneProg(p api.Prog) api.Prog {
-	return api.Prog{Globals: slices.Clone(p.Globals), Funcs: cloned(p.Funcs, cloneFunc)}
-}

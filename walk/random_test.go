@@ -3,11 +3,11 @@ package walk_test
 import (
 	"reflect"
 	"slices"
-	"strconv"
 	"testing"
 
 	"brazier/api"
 	"brazier/check"
+	"brazier/sample"
 	"brazier/syntax"
 	"brazier/walk"
 )
@@ -18,11 +18,11 @@ func TestRandomPrograms(t *testing.T) {
 	found := map[int]int{}
 	reads, prints, values := 0, 0, 0
 	for range rounds(20000) {
-		p, input := m.prog(), m.input()
+		p, input := m.Prog(), m.Input()
 		if d := check.Check(p); d != (api.Diag{}) || !syntax.May(p) {
 			t.Fatalf("%+v\n%s", d, syntax.Print(p))
 		}
-		kept, words := cloneProg(p), slices.Clone(input)
+		kept, words := sample.CopyProg(p), slices.Clone(input)
 		fuel := one(m, 3, 100, 3000, 3000, 3000)
 		got, want := walk.Run(p, input, fuel), oracle(p, input, fuel)
 		if !equal(got, want) {
@@ -53,7 +53,7 @@ func TestMoreFuel(t *testing.T) {
 	m := newMaker(106)
 	ended, opened := 0, 0
 	for range rounds(1500) {
-		p, input := m.prog(), m.input()
+		p, input := m.Prog(), m.Input()
 		const most = 150
 		last := walk.Run(p, input, -1)
 		for fuel := range most {
@@ -85,7 +85,7 @@ func TestWordsTaken(t *testing.T) {
 	m := newMaker(107)
 	some := 0
 	for range rounds(6000) {
-		p, input := m.prog(), m.input()
+		p, input := m.Prog(), m.Input()
 		got := walk.Run(p, input, 500)
 		if got.Reads > len(input) {
 			t.Fatalf("%d words of %d\n%s", got.Reads, len(input), syntax.Print(p))
@@ -95,7 +95,7 @@ func TestWordsTaken(t *testing.T) {
 		}
 		some++
 		taken := slices.Clip(input[:got.Reads])
-		for _, other := range [][]int32{append(taken, 99), append(taken, -7, 5, 3), append(taken, m.input()...), append(taken, 0), taken, append(taken, make([]int32, 100)...)} {
+		for _, other := range [][]int32{append(taken, 99), append(taken, -7, 5, 3), append(taken, m.Input()...), append(taken, 0), taken, append(taken, make([]int32, 100)...)} {
 			if again := walk.Run(p, other, 500); !equal(again, got) {
 				t.Fatalf("with %d: %+v; with %d: %+v\n%s", input, got, other, again, syntax.Print(p))
 			}
@@ -110,7 +110,7 @@ func TestWordsTaken(t *testing.T) {
 func TestWordsBehind(t *testing.T) {
 	m := newMaker(170)
 	for range rounds(3000) {
-		p, input := m.prog(), m.input()
+		p, input := m.Prog(), m.Input()
 		got := walk.Run(p, input, 500)
 		more := walk.Run(p, append(slices.Clone(input), make([]int32, 500)...), 500)
 		if more.Reads < got.Reads || got.Reads < len(input) && more.Reads > got.Reads {
@@ -127,9 +127,9 @@ func TestWordsBehind(t *testing.T) {
 func TestOrderOfFunctions(t *testing.T) {
 	m := newMaker(108)
 	for range rounds(3000) {
-		p, input := m.prog(), m.input()
+		p, input := m.Prog(), m.Input()
 		got := walk.Run(p, input, 1000)
-		q := cloneProg(p)
+		q := sample.CopyProg(p)
 		m.Shuffle(len(q.Funcs), func(i, j int) { q.Funcs[i], q.Funcs[j] = q.Funcs[j], q.Funcs[i] })
 		m.Shuffle(len(q.Globals), func(i, j int) { q.Globals[i], q.Globals[j] = q.Globals[j], q.Globals[i] })
 		if again := walk.Run(q, input, 1000); !equal(again, got) {
@@ -143,13 +143,13 @@ func TestNamesOfLocals(t *testing.T) {
 	m := newMaker(180)
 	turned := 0
 	for range rounds(3000) {
-		p, input := m.prog(), m.input()
+		p, input := m.Prog(), m.Input()
 		got := walk.Run(p, input, 1000)
-		q := cloneProg(p)
-		for i := range q.Funcs {
-			r := renamer{}
-			r.fn(&q.Funcs[i])
-			turned += r.turned
+		q := api.Prog{Globals: p.Globals}
+		for _, f := range p.Funcs {
+			own, count := sample.Renamed(f)
+			q.Funcs = append(q.Funcs, own)
+			turned += count
 		}
 		if d := check.Check(q); d != (api.Diag{}) {
 			t.Fatalf("%+v\n%s", d, syntax.Print(q))
@@ -160,72 +160,5 @@ func TestNamesOfLocals(t *testing.T) {
 	}
 	if turned < rounds(6000) {
 		t.Error(turned)
-	}
-}
-
-// A renamer gives each declaration of a function a name of its own, so that nothing shadows anything.
-type renamer struct {
-	scopes []map[string]string
-	turned int
-}
-
-func (r *renamer) fn(f *api.Func) {
-	r.scopes = []map[string]string{{}}
-	for i := range f.Params {
-		r.declare(&f.Params[i])
-	}
-	r.stmts(f.Body)
-}
-
-func (r *renamer) declare(name *string) {
-	was := *name
-	*name = "own" + strconv.Itoa(r.turned)
-	r.turned++
-	r.scopes[len(r.scopes)-1][was] = *name
-}
-
-func (r *renamer) use(name *string) {
-	for _, s := range slices.Backward(r.scopes) {
-		if now := s[*name]; now != "" {
-			*name = now
-			return
-		}
-	}
-}
-
-func (r *renamer) stmts(l []api.Stmt) {
-	for i := range l {
-		r.stmt(&l[i])
-	}
-}
-
-func (r *renamer) stmt(s *api.Stmt) {
-	r.exprs(s.Exprs)
-	switch s.Kind {
-	case api.StVar:
-		r.declare(&s.Name)
-	case api.StSet:
-		r.use(&s.Name)
-	}
-	for i := range s.Kids {
-		r.scopes = append(r.scopes, map[string]string{})
-		if s.Kind == api.StBlock {
-			r.stmts(s.Kids)
-		} else {
-			r.stmt(&s.Kids[i])
-		}
-		r.scopes = r.scopes[:len(r.scopes)-1]
-		if s.Kind == api.StBlock {
-			return
-		}
-	}
-}
-
-func (r *renamer) exprs(l []api.Expr) {
-	for i := range l {
-		if l[i].Kind == api.ExVar {
-			r.use(&l[i].Name)
-		}
-		r.exprs(l[i].Kids)
 	}
 }

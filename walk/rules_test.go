@@ -6,6 +6,7 @@ import (
 	"testing"
 
 	"brazier/api"
+	"brazier/sample"
 	"brazier/syntax"
 	"brazier/walk"
 )
@@ -31,7 +32,7 @@ func TestNilAndEmpty(t *testing.T) {
 
 // emptied is a copy in which lists of nothing aren't nil.
 func emptied(p api.Prog) api.Prog {
-	p = cloneProg(p)
+	p = sample.CopyProg(p)
 	var expr func(l []api.Expr) []api.Expr
 	expr = func(l []api.Expr) []api.Expr {
 		for i := range l {
@@ -93,7 +94,7 @@ func TestAgain(t *testing.T) {
 	var inputs [][]int32
 	var want []api.Result
 	for range rounds(1000) {
-		progs, inputs = append(progs, cloneProg(m.prog())), append(inputs, m.input())
+		progs, inputs = append(progs, sample.CopyProg(m.Prog())), append(inputs, m.Input())
 		want = append(want, walk.Run(progs[len(progs)-1], inputs[len(progs)-1], 300))
 	}
 	for i, p := range slices.Backward(progs) {
@@ -132,10 +133,10 @@ func TestWrongPrograms(t *testing.T) {
 func TestAnyTrees(t *testing.T) {
 	m := newMaker(1)
 	for range rounds(20000) {
-		p := cloneProg(m.prog())
+		p := sample.CopyProg(m.Prog())
 		for i := range p.Funcs {
 			f := &p.Funcs[i]
-			f.Body = cloned(f.Body, m.bentStmt)
+			f.Body = sample.Copied(f.Body, m.bentStmt)
 			if m.Intn(30) == 0 {
 				f.Params = append(f.Params, "x")
 			}
@@ -143,12 +144,12 @@ func TestAnyTrees(t *testing.T) {
 		if m.Intn(30) == 0 {
 			p.Globals = append(p.Globals, api.Global{Name: one(m, "a", "v"), Size: one(m, -1, -5, 0, math.MinInt, math.MaxInt)})
 		}
-		walk.Run(p, m.input(), 200)
+		walk.Run(p, m.Input(), 200)
 	}
 }
 
 func (m *maker) bentExpr(e api.Expr) api.Expr {
-	e.Kids = cloned(e.Kids, m.bentExpr)
+	e.Kids = sample.Copied(e.Kids, m.bentExpr)
 	switch m.Intn(80) {
 	case 0:
 		e.Kind = m.Intn(10) - 1
@@ -157,7 +158,7 @@ func (m *maker) bentExpr(e api.Expr) api.Expr {
 	case 2:
 		e.Kids = e.Kids[:m.Intn(len(e.Kids)+1)]
 	case 3:
-		e.Kids = append(e.Kids, m.num())
+		e.Kids = append(e.Kids, m.Num())
 	case 4:
 		e.Num = -e.Num
 	}
@@ -165,14 +166,14 @@ func (m *maker) bentExpr(e api.Expr) api.Expr {
 }
 
 func (m *maker) bentStmt(s api.Stmt) api.Stmt {
-	s.Exprs, s.Kids = cloned(s.Exprs, m.bentExpr), cloned(s.Kids, m.bentStmt)
+	s.Exprs, s.Kids = sample.Copied(s.Exprs, m.bentExpr), sample.Copied(s.Kids, m.bentStmt)
 	switch m.Intn(40) {
 	case 0:
 		s.Kind = m.Intn(14) - 1
 	case 1:
 		s.Exprs = s.Exprs[:m.Intn(len(s.Exprs)+1)]
 	case 2:
-		s.Exprs = append(s.Exprs, m.num())
+		s.Exprs = append(s.Exprs, m.Num())
 	case 3:
 		s.Kids = s.Kids[:m.Intn(len(s.Kids)+1)]
 	case 4:

@@ -1,0 +1,118 @@
+package sample_test
+
+import (
+	"math/rand"
+	"reflect"
+	"strings"
+	"testing"
+
+	"brazier/api"
+	"brazier/check"
+	"brazier/flow"
+	"brazier/sample"
+	"brazier/syntax"
+)
+
+func newMaker(seed int64) *sample.Maker { return sample.New(rand.New(rand.NewSource(seed)).Intn) }
+
+// What is made is right: nothing is wrong with programs, Mids may be; and it is the same for the same numbers.
+func TestMade(t *testing.T) {
+	m, again := newMaker(1), newMaker(1)
+	for range 2000 {
+		p := m.Prog()
+		if d := check.Check(p); d != (api.Diag{}) || !syntax.May(p) {
+			t.Fatalf("%+v\n%s", d, syntax.Print(p))
+		}
+		q := m.Mid()
+		if !flow.May(q) {
+			t.Fatalf("%+v may not be", q)
+		}
+		if !syntax.Same(p, again.Prog()) || !flow.SameMid(q, again.Mid()) || !reflect.DeepEqual(m.Input(), again.Input()) {
+			t.Fatal("another one from the same numbers")
+		}
+		if f := m.Fn(); !flow.MayFn(f) || f.Name != again.Fn().Name {
+			t.Fatalf("%+v may not be", f)
+		}
+	}
+}
+
+// Copies are the same, and share nothing.
+func TestCopies(t *testing.T) {
+	m := newMaker(2)
+	for range 500 {
+		p, q := m.Prog(), m.Mid()
+		pText, qText := syntax.Print(p), print(q)
+		pCopy, qCopy := sample.CopyProg(p), sample.CopyMid(q)
+		if !syntax.Same(p, pCopy) || !flow.SameMid(q, qCopy) {
+			t.Fatal("a copy isn't the same")
+		}
+		for i := range pCopy.Funcs {
+			for j := range pCopy.Funcs[i].Body {
+				s := &pCopy.Funcs[i].Body[j]
+				for k := range s.Exprs {
+					s.Exprs[k] = api.Expr{}
+				}
+				for k := range s.Kids {
+					s.Kids[k] = api.Stmt{}
+				}
+				*s = api.Stmt{}
+			}
+		}
+		for i := range qCopy.Fns {
+			for j := range qCopy.Fns[i].Blocks {
+				b := &qCopy.Fns[i].Blocks[j]
+				for k := range b.Ins {
+					clear(b.Ins[k].Args)
+					b.Ins[k].D = 77
+				}
+				b.Kind = 0
+			}
+		}
+		if syntax.Print(p) != pText || print(q) != qText {
+			t.Fatal("a copy shares something")
+		}
+	}
+}
+
+func print(m api.Mid) string {
+	var out strings.Builder
+	for _, f := range m.Fns {
+		out.WriteString(flow.Print(f))
+	}
+	return out.String()
+}
+
+// Renamed functions do the same by names of their own.
+func TestRenamed(t *testing.T) {
+	p, _, _ := syntax.Parse("int x; int f(int a, int b) { int c = a; { int c = c + b; a = c; } while (a) int b = b; x = a; c = 1; } int main() { }")
+	f, count := sample.Renamed(p.Funcs[0])
+	const want = "int f(int own0, int own1) {\n\tint own2 = own0;\n\t{\n\t\tint own3 = own2 + own1;\n\t\town0 = own3;\n\t}\n\twhile (own0)\n\t\tint own4 = own1;\n\tx = own0;\n\town2 = 1;\n}\n"
+	if got := syntax.PrintFunc(f); got != want || count != 5 {
+		t.Errorf("%d: %s", count, got)
+	}
+	if !strings.Contains(syntax.Print(p), "int c = c + b;") {
+		t.Error("turned what it was given")
+	}
+}
+
+// What layer 11 prints is read as the same, with ; in place of line ends too.
+func TestBlocks(t *testing.T) {
+	m := newMaker(3)
+	for range 1000 {
+		q := m.Mid()
+		for _, text := range []string{print(q), strings.ReplaceAll(print(q), "\n", ";"), strings.ReplaceAll(print(q), "\n\t", " ; ")} {
+			if got := (api.Mid{Globals: q.Globals, Fns: sample.Blocks(text)}); !flow.SameMid(got, q) {
+				t.Fatalf("%s; was %s", print(got), text)
+			}
+		}
+	}
+	for _, line := range []string{"r0 =", "= r1", "print", "r0 r1 = r2", "what", "r0 = num", "r0 = r1 + "} {
+		l := sample.Blocks("fn f 0 3; block 0; " + line + "; return r0")
+		if len(l) != 1 || len(l[0].Blocks) != 1 || len(l[0].Blocks[0].Ins) != 1 {
+			t.Errorf("%q: %+v", line, l)
+		}
+	}
+	if l := sample.Blocks("x; fn f; block 0; r0 = num 1; fn f 0 1; r0 = num 1; block 0; what"); len(l) != 1 || len(l[0].Blocks) != 1 || flow.MayFn(l[0]) {
+		t.Errorf("%+v", l)
+	}
+}
