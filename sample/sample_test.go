@@ -36,6 +36,32 @@ func TestMade(t *testing.T) {
 	}
 }
 
+// Graphs may be, in all their ways to end; bent functions mostly may not.
+func TestGraphsAndBent(t *testing.T) {
+	m, again := newMaker(4), newMaker(4)
+	kinds, bent := map[int]int{}, 0
+	for range 2000 {
+		f := m.Graph(6)
+		if !flow.MayFn(f) || len(f.Blocks) > 6 || !flow.Same(f, again.Graph(6)) {
+			t.Fatalf("%+v", f)
+		}
+		kinds[f.Blocks[0].Kind]++
+		g, same := sample.CopyFn(m.Fn()), sample.CopyFn(again.Fn())
+		m.Bend(&g)
+		again.Bend(&same)
+		if !flow.Same(g, same) {
+			t.Fatalf("%+v; want %+v", same, g)
+		}
+		if !flow.MayFn(g) {
+			bent++
+		}
+	}
+	if kinds[api.BlJump] < 200 || kinds[api.BlBranch] < 200 || kinds[api.BlReturn] < 200 || bent < 1000 {
+		t.Error(kinds, bent)
+	}
+	m.Bend(&api.Fn{})
+}
+
 // Copies are the same, and share nothing.
 func TestCopies(t *testing.T) {
 	m := newMaker(2)
