@@ -37,7 +37,7 @@ func insText(x api.Ins) string {
 	case api.InStore:
 		return element(x) + " = " + reg(x.B)
 	case api.InCall:
-		if x.D < 0 {
+		if x.D == none {
 			return called(x)
 		}
 	case api.InPrint:
@@ -72,7 +72,7 @@ func turned(x api.Ins) (string, bool) {
 
 // element is a global's name, with the register of its index, if there is one.
 func element(x api.Ins) string {
-	if x.A < 0 {
+	if x.A == none {
 		return x.Name
 	}
 	return x.Name + "[" + reg(x.A) + "]"

@@ -51,6 +51,18 @@ func TestPrintIns(t *testing.T) {
 	printed(t, api.Ins{Kind: api.InPrint, D: -1, A: 1, B: -1}, "print r1")
 }
 
+// P11.4: a register of any number but -1 is there.
+func TestPrintRegistersBelowNone(t *testing.T) {
+	for n, text := range map[int]string{-2: "r-2", -3: "r-3", math.MinInt32: "r-2147483648", math.MinInt: "r0", 1<<32 - 1: "r-1", -1<<32 - 1: "r-1"} {
+		printed(t, api.Ins{Kind: api.InCall, D: n, A: -1, B: -1, Name: "f", Args: []int{1, 0}}, text+" = f(r1, r0)")
+		printed(t, api.Ins{Kind: api.InCall, D: -1, A: n, B: n, Name: "f", Args: []int{n, -1}}, "f("+text+", r-1)")
+		printed(t, api.Ins{Kind: api.InLoad, D: n, A: n, B: -1, Name: "g"}, text+" = g["+text+"]")
+		printed(t, api.Ins{Kind: api.InLoad, D: n, A: -1, B: n, Name: "g"}, text+" = g")
+		printed(t, api.Ins{Kind: api.InStore, D: n, A: n, B: n, Name: "g"}, "g["+text+"] = "+text)
+		printed(t, api.Ins{Kind: api.InStore, D: n, A: -1, B: n, Name: "g"}, "g = "+text)
+	}
+}
+
 // P11.4: the signs.
 func TestPrintSigns(t *testing.T) {
 	for i, sign := range strings.Fields("+ - * / % << >> & | ^ < <= > >= == != && ||") {
@@ -146,10 +158,10 @@ func insForm(x api.Ins) string {
 	form := map[int]string{
 		api.InNum: "rD = num N", api.InCopy: "rD = rA", api.InUn: "rD = SrA", api.InBin: "rD = rA S rB", api.InLoad: "rD = W[rA]", api.InStore: "W[rA] = rB", api.InCall: "rD = W(L)", api.InRead: "rD = read", api.InPrint: "print rA",
 	}[x.Kind]
-	if x.A < 0 && (x.Kind == api.InLoad || x.Kind == api.InStore) {
+	if x.A == -1 && (x.Kind == api.InLoad || x.Kind == api.InStore) {
 		form = strings.Replace(form, "[rA]", "", 1)
 	}
-	if x.D < 0 && x.Kind == api.InCall {
+	if x.D == -1 && x.Kind == api.InCall {
 		form = "W(L)"
 	}
 	return form
