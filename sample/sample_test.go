@@ -7,6 +7,7 @@ import (
 	"testing"
 
 	"brazier/api"
+	"brazier/asm"
 	"brazier/check"
 	"brazier/flow"
 	"brazier/sample"
@@ -60,6 +61,40 @@ func TestGraphsAndBent(t *testing.T) {
 		t.Error(kinds, bent)
 	}
 	m.Bend(&api.Fn{})
+}
+
+// Lines and programs of the machine may be, each instruction is made, with symbols and without; bent ones mostly may not.
+func TestMachine(t *testing.T) {
+	m, again := newMaker(5), newMaker(5)
+	ops, syms, bent := map[int]int{}, 0, 0
+	for n := range 5000 {
+		l, x, a := m.Line(), m.Op(1+n%sample.Ops), m.Asm()
+		if !asm.MayLine(l) || !asm.MayLine(x) || x.Sym != "" || !asm.May(a) {
+			t.Fatalf("%+v, %+v, %+v", l, x, a)
+		}
+		y, b := x, sample.CopyAsm(a)
+		if l != again.Line() || x != again.Op(1+n%sample.Ops) || !asm.Same(a, again.Asm()) {
+			t.Fatal("another one from the same numbers")
+		}
+		m.BendLine(&x)
+		m.BendAsm(&a)
+		if again.BendLine(&y); x != y {
+			t.Fatal("bent in another way by the same numbers")
+		}
+		if again.BendAsm(&b); !asm.Same(a, b) {
+			t.Fatal("bent in another way by the same numbers")
+		}
+		ops[l.Op]++
+		if l.Op != 0 && l.Sym != "" {
+			syms++
+		}
+		if !asm.MayLine(x) && !asm.May(a) {
+			bent++
+		}
+	}
+	if len(ops) != sample.Ops+1 || syms < 100 || bent < 1000 {
+		t.Error(ops, syms, bent)
+	}
 }
 
 // Copies are the same, and share nothing.
