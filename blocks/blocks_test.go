@@ -84,3 +84,40 @@ func TestTried(t *testing.T) {
 		t.Error(got)
 	}
 }
+
+func TestEvery(t *testing.T) {
+	even := func(n int) bool { return n%2 == 0 }
+	if !blocks.Every(nil, even) || !blocks.Every([]int{2, 4}, even) || blocks.Every([]int{2, 3, 4}, even) {
+		t.Error("whether each may be")
+	}
+}
+
+func TestNeed(t *testing.T) {
+	for n := -3; n < 6; n++ {
+		there := n >= 0 && n < 4
+		if blocks.Within(n, 4) != there || blocks.Always.Fits(n, 4) != there || blocks.Perhaps.Fits(n, 4) != (there || n == -1) || blocks.Never.Fits(n, 4) != (n == -1) {
+			t.Error(n)
+		}
+	}
+}
+
+func TestMayHead(t *testing.T) {
+	for _, c := range []struct {
+		name         string
+		params, regs int
+		want         bool
+	}{{"f", 0, 0, true}, {"f", 8, 8, true}, {"f", 0, 4096, true}, {"f", 9, 9, false}, {"f", -1, 3, false}, {"f", 3, 2, false}, {"f", 0, 4097, false}, {"int", 0, 1, false}, {"", 0, 1, false}} {
+		if got := blocks.MayHead(c.name, c.params, c.regs); got != c.want {
+			t.Errorf("%+v: %v", c, got)
+		}
+	}
+}
+
+func TestMayNameAndArgs(t *testing.T) {
+	if !blocks.MayName("g", true) || !blocks.MayName("", false) || blocks.MayName("", true) || blocks.MayName("g", false) || blocks.MayName("1x", true) {
+		t.Error("names")
+	}
+	if !blocks.MayArgs(nil, false, 2) || !blocks.MayArgs([]int{}, true, 0) || !blocks.MayArgs([]int{0, 1, 1, 0, 0, 0, 0, 0}, true, 2) || blocks.MayArgs([]int{0}, false, 2) || blocks.MayArgs([]int{0, 2}, true, 2) || blocks.MayArgs([]int{-1}, true, 2) || blocks.MayArgs(make([]int, 9), true, 2) {
+		t.Error("arguments")
+	}
+}

@@ -2,34 +2,22 @@ package flow
 
 import (
 	"brazier/api"
+	"brazier/blocks"
 	"brazier/lexer"
 	"brazier/word"
 )
 
-// all is whether each of l may be.
-func all[T any](l []T, may func(T) bool) bool {
-	for _, x := range l {
-		if !may(x) {
-			return false
-		}
-	}
-	return true
-}
-
-// within is whether n is from 0 to limit - 1.
-func within(n, limit int) bool { return n >= 0 && n < limit }
-
 // MayFn: P11.1.
 func MayFn(f api.Fn) bool {
-	if !lexer.IsName(f.Name) || f.Params < 0 || f.Params > api.MaxParams || f.Regs < f.Params || f.Regs > api.MaxRegs || len(f.Blocks) == 0 {
+	if !blocks.MayHead(f.Name, f.Params, f.Regs) || len(f.Blocks) == 0 {
 		return false
 	}
 	ins := func(x api.Ins) bool { return mayIns(x, f.Regs) }
-	return all(f.Blocks, func(b api.Block) bool { return all(b.Ins, ins) && mayEnd(b, f) })
+	return blocks.Every(f.Blocks, func(b api.Block) bool { return blocks.Every(b.Ins, ins) && mayEnd(b, f) })
 }
 
 func mayEnd(b api.Block, f api.Fn) bool {
-	reg, to, other := within(b.A, f.Regs), within(b.To, len(f.Blocks)), within(b.Else, len(f.Blocks))
+	reg, to, other := blocks.Within(b.A, f.Regs), blocks.Within(b.To, len(f.Blocks)), blocks.Within(b.Else, len(f.Blocks))
 	switch b.Kind {
 	case api.BlJump:
 		return b.A == 0 && to && b.Else == 0
@@ -41,23 +29,9 @@ func mayEnd(b api.Block, f api.Fn) bool {
 	return false
 }
 
-// A need is whether a kind of instruction has a register there.
-type need int
-
-const (
-	never need = iota
-	perhaps
-	always
-)
-
-// fits is whether n is what a kind of that need may have, of so many registers.
-func (want need) fits(n, regs int) bool {
-	return want != never && within(n, regs) || want != always && n == none
-}
-
 // A shape is what a kind of instruction has.
 type shape struct {
-	d, a, b          need
+	d, a, b          blocks.Need
 	values           int // how many its operator is one of: 0 without
 	num, named, args bool
 }
@@ -66,23 +40,23 @@ type shape struct {
 func shapeOf(kind int) (shape, bool) {
 	switch kind {
 	case api.InNum:
-		return shape{d: always, num: true}, true
+		return shape{d: blocks.Always, num: true}, true
 	case api.InCopy:
-		return shape{d: always, a: always}, true
+		return shape{d: blocks.Always, a: blocks.Always}, true
 	case api.InUn:
-		return shape{d: always, a: always, values: 1}, true
+		return shape{d: blocks.Always, a: blocks.Always, values: 1}, true
 	case api.InBin:
-		return shape{d: always, a: always, b: always, values: 2}, true
+		return shape{d: blocks.Always, a: blocks.Always, b: blocks.Always, values: 2}, true
 	case api.InLoad:
-		return shape{d: always, a: perhaps, named: true}, true
+		return shape{d: blocks.Always, a: blocks.Perhaps, named: true}, true
 	case api.InStore:
-		return shape{a: perhaps, b: always, named: true}, true
+		return shape{a: blocks.Perhaps, b: blocks.Always, named: true}, true
 	case api.InCall:
-		return shape{d: perhaps, named: true, args: true}, true
+		return shape{d: blocks.Perhaps, named: true, args: true}, true
 	case api.InRead:
-		return shape{d: always}, true
+		return shape{d: blocks.Always}, true
 	case api.InPrint:
-		return shape{a: always}, true
+		return shape{a: blocks.Always}, true
 	}
 	return shape{}, false
 }
@@ -90,8 +64,8 @@ func shapeOf(kind int) (shape, bool) {
 // mayIns is whether x has just what its kind has, of so many registers.
 func mayIns(x api.Ins, regs int) bool {
 	s, known := shapeOf(x.Kind)
-	return known && s.d.fits(x.D, regs) && s.a.fits(x.A, regs) && s.b.fits(x.B, regs) &&
-		mayOp(x.Op, s.values) && (s.num || x.Num == 0) && mayName(x.Name, s.named) && mayArgs(x.Args, s.args, regs)
+	return known && s.d.Fits(x.D, regs) && s.a.Fits(x.A, regs) && s.b.Fits(x.B, regs) &&
+		mayOp(x.Op, s.values) && (s.num || x.Num == 0) && blocks.MayName(x.Name, s.named) && blocks.MayArgs(x.Args, s.args, regs)
 }
 
 // mayOp goes by what layer 1 reckons with, but for && and ||, which are ways in blocks.
@@ -105,20 +79,6 @@ func mayOp(op, values int) bool {
 		return known && op != api.AndAnd && op != api.OrOr
 	}
 	return op == 0
-}
-
-func mayName(name string, named bool) bool {
-	if named {
-		return lexer.IsName(name)
-	}
-	return name == ""
-}
-
-func mayArgs(args []int, has bool, regs int) bool {
-	if !has {
-		return len(args) == 0
-	}
-	return len(args) <= api.MaxParams && all(args, func(n int) bool { return within(n, regs) })
 }
 
 // A meaning is what a name of a program stands for: none of those, if it is zero.
@@ -175,14 +135,14 @@ func (l meanings) goesWith(x api.Ins) bool {
 // May: P11.2.
 func May(m api.Mid) bool {
 	own := meanings{}
-	if len(m.Globals) > api.MaxGlobals || !all(m.Globals, own.addGlobal) || words(m.Globals) > api.MaxData || !all(m.Fns, own.addFn) {
+	if len(m.Globals) > api.MaxGlobals || !blocks.Every(m.Globals, own.addGlobal) || words(m.Globals) > api.MaxData || !blocks.Every(m.Fns, own.addFn) {
 		return false
 	}
 	if own["main"] != (meaning{role: aFunction}) {
 		return false
 	}
-	return all(m.Fns, func(f api.Fn) bool {
-		return all(f.Blocks, func(b api.Block) bool { return all(b.Ins, own.goesWith) })
+	return blocks.Every(m.Fns, func(f api.Fn) bool {
+		return blocks.Every(f.Blocks, func(b api.Block) bool { return blocks.Every(b.Ins, own.goesWith) })
 	})
 }
 
