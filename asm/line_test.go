@@ -248,15 +248,7 @@ func TestRandomTexts(t *testing.T) {
 	}
 }
 
-// spoilt puts a piece in, leaves a byte out, or takes another byte.
+// spoilt is a line's or a program's text with something of it turned.
 func spoilt(m *maker, s string) string {
-	at := m.Intn(len(s) + 1)
-	piece := one(m, "\t", " ", ", ", ":", "x", "0", "1", "9", "-", "(", ")", ".", "_", "a", "%hi(", "%lo(", "\n", "32", "x5", "add", "é", "")
-	switch m.Intn(3) {
-	case 0:
-		return s[:at] + piece + s[at:]
-	case 1:
-		return s[:at] + s[min(at+1, len(s)):]
-	}
-	return s[:at] + piece + s[min(at+1, len(s)):]
+	return m.Spoilt(s, "\t", " ", ", ", ":", "x", "0", "1", "9", "-", "(", ")", ".", "_", "a", "%hi(", "%lo(", "\n", "32", "x5", "add", "é", "")
 }

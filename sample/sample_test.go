@@ -12,6 +12,7 @@ import (
 	"brazier/flow"
 	"brazier/sample"
 	"brazier/syntax"
+	"brazier/unit"
 )
 
 func newMaker(seed int64) *sample.Maker { return sample.New(rand.New(rand.NewSource(seed)).Intn) }
@@ -94,6 +95,78 @@ func TestMachine(t *testing.T) {
 	}
 	if len(ops) != sample.Ops+1 || syms < 100 || bent < 1000 {
 		t.Error(ops, syms, bent)
+	}
+}
+
+// Units may be, with places, jumps to them and calls; bent ones mostly may not. A copy is the same, and shares nothing.
+func TestUnits(t *testing.T) {
+	m, again := newMaker(6), newMaker(6)
+	places, calls, bent := 0, 0, 0
+	for range 3000 {
+		u := m.Unit()
+		if !unit.May(u) || !unit.Same(u, again.Unit()) {
+			t.Fatalf("%+v", u)
+		}
+		places += strings.Count(unit.Print(u), ", .")
+		calls += strings.Count(unit.Print(u), "jal") - strings.Count(unit.Print(u), ", .")
+		v, w, kept := sample.CopyUnit(u), sample.CopyUnit(u), unit.Print(u)
+		if !unit.Same(u, v) {
+			t.Fatal("a copy isn't the same")
+		}
+		m.BendUnit(&v)
+		if again.BendUnit(&w); !unit.Same(v, w) {
+			t.Fatal("bent in another way by the same numbers")
+		}
+		if clear(w.Lines); unit.Print(u) != kept {
+			t.Fatal("a copy shares something")
+		}
+		if !unit.May(v) {
+			bent++
+		}
+	}
+	if places < 100 || calls < 100 || bent < 1000 {
+		t.Error(places, calls, bent)
+	}
+}
+
+// A text is of its program, in many ways.
+func TestText(t *testing.T) {
+	m, again := newMaker(7), newMaker(7)
+	longer := 0
+	for range 1000 {
+		p := m.Prog()
+		text := m.Text(p)
+		if q, err, at := syntax.Parse(text); err != api.OK || !syntax.Same(p, q) {
+			t.Fatalf("%s: %d, %+v", text, err, at)
+		}
+		if again.Prog(); again.Text(p) != text {
+			t.Fatal("another one from the same numbers")
+		}
+		if other := m.Text(p); len(other) > len(text) {
+			longer++
+		}
+		again.Text(p)
+	}
+	if longer < 300 || longer > 700 {
+		t.Error(longer)
+	}
+}
+
+// A text is spoilt in one place, or isn't.
+func TestSpoilt(t *testing.T) {
+	m := newMaker(8)
+	found := map[string]int{}
+	for range 2000 {
+		found[m.Spoilt("ab", "x", "yz")]++
+	}
+	for _, text := range []string{"xab", "axb", "abx", "yzab", "ayzb", "abyz", "b", "a", "ab", "xb", "ax", "yzb", "ayz"} {
+		if found[text] == 0 {
+			t.Errorf("never %q", text)
+		}
+		delete(found, text)
+	}
+	if len(found) > 0 || !strings.Contains(" x", m.Spoilt("", "x")) {
+		t.Error(found)
 	}
 }
 

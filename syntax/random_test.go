@@ -6,6 +6,7 @@ import (
 	"testing"
 
 	"brazier/api"
+	"brazier/sample"
 )
 
 // A maker makes random trees that may be.
@@ -119,171 +120,8 @@ func (m maker) prog(deep int) api.Prog {
 	return p
 }
 
-// A writer writes a tree's tokens by the chapter's grammar alone: brackets stand where they must, and here and there where they may.
-type writer struct {
-	maker
-	tokens []string
-}
-
-func (w *writer) put(tokens ...string) { w.tokens = append(w.tokens, tokens...) }
-
-// sep does so for each of n, with a comma between two, in ( ).
-func (w *writer) sep(n int, do func(i int)) {
-	w.put("(")
-	for i := range n {
-		if i > 0 {
-			w.put(",")
-		}
-		do(i)
-	}
-	w.put(")")
-}
-
-// How strongly what isn't an operator of two binds.
-const levelOne, levelPrimary = 11, 12
-
-func levelOf(e api.Expr) int {
-	switch e.Kind {
-	case api.ExUn:
-		return levelOne
-	case api.ExBin:
-		for _, b := range binaries() {
-			if b.op == e.Op {
-				return b.level
-			}
-		}
-	}
-	return levelPrimary
-}
-
-// expr writes an expression where nothing may stand that binds less.
-func (w *writer) expr(e api.Expr, least int) {
-	if levelOf(e) < least || w.Intn(12) == 0 {
-		w.put("(")
-		w.expr(e, 0)
-		w.put(")")
-		return
-	}
-	switch e.Kind {
-	case api.ExNum:
-		w.put(numeral(e.Num))
-	case api.ExVar:
-		w.put(e.Name)
-	case api.ExIndex:
-		w.put(e.Name, "[")
-		w.expr(e.Kids[0], 0)
-		w.put("]")
-	case api.ExCall:
-		w.put(e.Name)
-		w.sep(len(e.Kids), func(i int) { w.expr(e.Kids[i], 0) })
-	case api.ExRead:
-		w.put("read", "(", ")")
-	case api.ExUn:
-		w.put(signs[e.Op-1])
-		w.expr(e.Kids[0], levelOne)
-	case api.ExBin:
-		w.expr(e.Kids[0], levelOf(e))
-		w.put(signs[e.Op-1])
-		w.expr(e.Kids[1], levelOf(e)+1)
-	}
-}
-
-func numeral(n int32) string {
-	if n < 10 {
-		return string(rune('0' + n))
-	}
-	return numeral(n/10) + numeral(n%10)
-}
-
-func (w *writer) stmt(s api.Stmt) {
-	e := func(i int) { w.expr(s.Exprs[i], 0) }
-	switch s.Kind {
-	case api.StVar:
-		w.put("int", s.Name)
-		if len(s.Exprs) > 0 {
-			w.put("=")
-			e(0)
-		}
-	case api.StSet:
-		w.put(s.Name, "=")
-		e(0)
-	case api.StPut:
-		w.put(s.Name, "[")
-		e(0)
-		w.put("]", "=")
-		e(1)
-	case api.StCall:
-		w.put(s.Name)
-		w.sep(len(s.Exprs), e)
-	case api.StBreak:
-		w.put("break")
-	case api.StContinue:
-		w.put("continue")
-	case api.StReturn:
-		w.put("return")
-		e(0)
-	case api.StPrint:
-		w.put("print")
-		e(0)
-	case api.StIf, api.StWhile:
-		w.put(map[int]string{api.StIf: "if", api.StWhile: "while"}[s.Kind])
-		w.sep(1, e)
-		w.stmt(s.Kids[0])
-		if len(s.Kids) > 1 {
-			w.put("else")
-			w.stmt(s.Kids[1])
-		}
-		return
-	case api.StBlock:
-		if len(s.Kids) > 0 || w.Intn(2) == 0 {
-			w.block(s.Kids)
-			return
-		}
-	}
-	w.put(";")
-}
-
-func (w *writer) block(l []api.Stmt) {
-	w.put("{")
-	for _, s := range l {
-		w.stmt(s)
-	}
-	w.put("}")
-}
-
-// prog writes globals and functions, in any order of the ones among the others.
-func (w *writer) prog(p api.Prog) {
-	for len(p.Globals)+len(p.Funcs) > 0 {
-		if len(p.Funcs) == 0 || len(p.Globals) > 0 && w.Intn(2) == 0 {
-			g := p.Globals[0]
-			w.put("int", g.Name)
-			if g.Size > 0 {
-				w.put("[", numeral(int32(g.Size)), "]")
-			}
-			w.put(";")
-			p.Globals = p.Globals[1:]
-			continue
-		}
-		f := p.Funcs[0]
-		w.put("int", f.Name)
-		w.sep(len(f.Params), func(i int) { w.put("int", f.Params[i]) })
-		w.block(f.Body)
-		p.Funcs = p.Funcs[1:]
-	}
-}
-
-// text is the tokens with something between: nothing, where one of two is a bracket, a comma or a semicolon.
-func (w *writer) text() string {
-	var b strings.Builder
-	for i, token := range w.tokens {
-		tight := i == 0 || strings.Contains("()[]{},;", token) || strings.Contains("()[]{},;", w.tokens[i-1])
-		if !tight || w.Intn(3) > 0 {
-			b.WriteString(w.one(" ", "\n", "\t ", " /* } */ ", " // {\n", "\r\n"))
-		}
-		b.WriteString(token)
-	}
-	return b.String()
-}
+// text is a program's, written in any way that the grammar has.
+func (m maker) text(p api.Prog) string { return sample.New(m.Intn).Text(p) }
 
 // P8.1, P8.7: a tree that may be, written in any way that the grammar has, is parsed as that tree; printed, it is one text, and parsed as that tree again.
 func TestTrees(t *testing.T) {
@@ -297,9 +135,7 @@ func TestTrees(t *testing.T) {
 		if !May(p) {
 			t.Fatalf("may not be: %+v", p)
 		}
-		w := &writer{maker: m}
-		w.prog(p)
-		text := w.text()
+		text := m.text(p)
 		if len(text) > api.MaxText {
 			continue
 		}
@@ -464,9 +300,7 @@ func TestAnyText(t *testing.T) {
 	m := newMaker(82)
 	ends := map[api.Errno]int{}
 	for range 20000 {
-		w := &writer{maker: m}
-		w.prog(m.prog(3))
-		text := []byte(w.text())
+		text := []byte(m.text(m.prog(3)))
 		for range m.Intn(3) {
 			if len(text) == 0 {
 				break
